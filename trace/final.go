@@ -70,7 +70,8 @@ func (e *ending) object(name string, x api.Object) line {
 	case api.ObjPlain:
 		types = at(e.prog.Classes, x.Of).Fields
 	case api.ObjClosure:
-		word("f" + strconv.Itoa(x.Of))
+		// 'f' and the function are no value's word: no blank stands ahead of them.
+		text.WriteString("f" + strconv.Itoa(x.Of))
 		// Its cells are told as objects, and so is what is of a function's type.
 		x.Of = int(api.TypeFn)
 		fallthrough

@@ -6,6 +6,7 @@ import (
 	"math/rand"
 	"reflect"
 	"slices"
+	"strings"
 	"testing"
 
 	"detent/api"
@@ -48,41 +49,41 @@ func TestFinal(t *testing.T) {
 		{"globals of each type, of nothing", "looper ui; class C { } var i int; var f fn; var k tok; var h hand; var a arr; var c C; main { }", "", api.Final{Globals: []string{"0", "-", "-", "-", "-", "-"}}},
 		{
 			"globals of each type", "looper ui; class C { } var i int; var f fn; var k tok; var h hand; var a arr; var c C; main { i = 12; f = fn { }; post ui f to k; spawn f to h; a = arr 0; c = new C; }", "",
-			api.Final{Globals: []string{"12", "m#0", "m/0", "m/1", "m#1", "m#2"}, Objects: []string{"m#0= f1", "m#1=", "m#2="}},
+			api.Final{Globals: []string{"12", "m#0", "m/0", "m/1", "m#1", "m#2"}, Objects: []string{"m#0=f1", "m#1=", "m#2="}},
 		}, {
 			"fields of each type, of nothing", "looper ui; class C { i int; f fn; k tok; h hand; a arr; c C; } var c C; main { c = new C; }", "",
 			api.Final{Globals: []string{"m#0"}, Objects: []string{"m#0= 0 - - - - -"}},
 		}, {
 			"fields of each type", "looper ui; class C { i int; f fn; k tok; h hand; a arr; c C; } var c C; main { c = new C; c.i = 0 - 1; c.f = fn { }; post ui c.f to c.k; spawn c.f to c.h; c.a = arr 2; c.c = c; }", "",
-			api.Final{Globals: []string{"m#0"}, Objects: []string{"m#0= -1 m#1 m/0 m/1 m#2 m#0", "m#1= f1", "m#2= 0 0"}},
+			api.Final{Globals: []string{"m#0"}, Objects: []string{"m#0= -1 m#1 m/0 m/1 m#2 m#0", "m#1=f1", "m#2= 0 0"}},
 		}, {
 			"an array", "looper ui; var a arr; main { a = arr 4; a[1] = 1; a[3] = 0 - 3; }", "",
 			api.Final{Globals: []string{"m#0"}, Objects: []string{"m#0= 0 1 0 -3"}},
 		}, {
 			"cells of each type, and their closure",
 			"looper ui; class C { } main { var i int = 4; var f fn = null; var k tok = null; var h hand = null; var a arr = null; var c C = null; f = fn { i = i; f = f; k = k; h = h; a = a; c = c; i = 9; }; post ui f to k; spawn f to h; a = arr 1; c = new C; }", "",
-			api.Final{Objects: []string{"m#0= 9", "m#1= m#6", "m#2= m/0", "m#3= m/1", "m#4= m#7", "m#5= m#8", "m#6= f1 m#0 m#1 m#2 m#3 m#4 m#5", "m#7= 0", "m#8="}},
+			api.Final{Objects: []string{"m#0= 9", "m#1= m#6", "m#2= m/0", "m#3= m/1", "m#4= m#7", "m#5= m#8", "m#6=f1 m#0 m#1 m#2 m#3 m#4 m#5", "m#7= 0", "m#8="}},
 		}, {
 			"objects that tasks of each kind made, by rising names",
 			"looper ui; class C { n int; } var k C; comp c on ui { create { var x C = new C; x.n = 1; } } event e on ui on { var x C = new C; x.n = it; post ui fn { var x C = new C; x.n = 3; }; } main { var x C = new C; spawn fn { var x C = new C; x.n = 4; }; }", "life 0 0, inject 0 22, inject 0 23",
-			api.Final{Globals: []string{"-"}, Objects: []string{"c0.0#0= 1", "e0.0#0= 22", "e0.0#1= f2", "e0.0/0#0= 3", "e0.1#0= 23", "e0.1#1= f2", "e0.1/0#0= 3", "m#0= 0", "m#1= f4", "m/0#0= 4"}},
+			api.Final{Globals: []string{"-"}, Objects: []string{"c0.0#0= 1", "e0.0#0= 22", "e0.0#1=f2", "e0.0/0#0= 3", "e0.1#0= 23", "e0.1#1=f2", "e0.1/0#0= 3", "m#0= 0", "m#1=f4", "m/0#0= 4"}},
 		}, {
 			"names rise, not lines: '#1' is ahead of '#10', but '#1=' is not", "looper ui; main { var i int = 0; while i < 12 { var a arr = arr 1; a[0] = i; i = i + 1; } }", "",
 			api.Final{Objects: []string{"m#0= 0", "m#1= 1", "m#10= 10", "m#11= 11", "m#2= 2", "m#3= 3", "m#4= 4", "m#5= 5", "m#6= 6", "m#7= 7", "m#8= 8", "m#9= 9"}},
 		}, {
 			"faults of each kind", "looper ui; class C { i int; } main { spawn fn { var a arr = arr 3; a[3] = 1; }; spawn fn { var a arr = arr 65; }; spawn fn { log 1; }; var c C = null; log c.i; }", "",
-			api.Final{Objects: []string{"m#0= f1", "m#1= f2", "m#2= f3", "m/0#0= 0 0 0"}, Log: []string{"1"}, Traps: []string{"m:1", "m/0:2", "m/1:3"}},
+			api.Final{Objects: []string{"m#0=f1", "m#1=f2", "m#2=f3", "m/0#0= 0 0 0"}, Log: []string{"1"}, Traps: []string{"m:1", "m/0:2", "m/1:3"}},
 		}, {
 			"faults rise by names: 'm' is ahead of 'm/1', that one of 'm/10'",
 			"looper ui; fn fail { var no tok = null; cancel no; } comp c on ui { create { call fail; } } event e on ui on { log len arr it; } main { var i int = 0; while i < 11 { spawn fn { var no hand = null; join no; }; i = i + 1; } var no tok = null; cancel no; }", "inject 0 65, life 0 0, inject 0 64, inject 0 -1",
 			api.Final{
-				Objects: []string{"c0.0#0= f0", "e0.1#0=" + zeros(64), "m#0= f4", "m#1= f4", "m#10= f4", "m#2= f4", "m#3= f4", "m#4= f4", "m#5= f4", "m#6= f4", "m#7= f4", "m#8= f4", "m#9= f4"},
+				Objects: []string{"c0.0#0=f0", "e0.1#0=" + zeros(64), "m#0=f4", "m#1=f4", "m#10=f4", "m#2=f4", "m#3=f4", "m#4=f4", "m#5=f4", "m#6=f4", "m#7=f4", "m#8=f4", "m#9=f4"},
 				Log:     []string{"64"},
 				Traps:   []string{"c0.0:1", "e0.0:3", "e0.2:3", "m:1", "m/0:1", "m/1:1", "m/10:1", "m/2:1", "m/3:1", "m/4:1", "m/5:1", "m/6:1", "m/7:1", "m/8:1", "m/9:1"},
 			},
 		}, {
 			"a token of a task that was cancelled, a handle of one that has a fault", "looper ui; var k tok; var h hand; main { post ui fn { } to k; cancel k; spawn fn { var no hand = null; join no; } to h; }", "",
-			api.Final{Globals: []string{"m/0", "m/1"}, Objects: []string{"m#0= f1", "m#1= f2"}, Traps: []string{"m/1:1"}},
+			api.Final{Globals: []string{"m/0", "m/1"}, Objects: []string{"m#0=f1", "m#1=f2"}, Traps: []string{"m/1:1"}},
 		},
 	} {
 		p := parsed(t, c.text)
@@ -91,7 +92,7 @@ func TestFinal(t *testing.T) {
 	// What goes too deep makes many closures.
 	p := parsed(t, "looper ui; fn deep { call deep; } main { call deep; }")
 	f := trace.Final(p, ended(t, p, ""))
-	if len(f.Objects) != api.MaxFrames || f.Objects[0] != "m#0= f0" || !slices.Equal(f.Traps, []string{"m:4"}) {
+	if len(f.Objects) != api.MaxFrames || f.Objects[0] != "m#0=f0" || !slices.Equal(f.Traps, []string{"m:4"}) {
 		t.Errorf("deep: %q", f)
 	}
 }
@@ -105,17 +106,34 @@ func zeros(n int) string {
 	return s
 }
 
+// P13.4: of a closure's line the cells' words alone have a blank ahead of each: 'f' and the function stand right behind the '=', with cells and without.
+func TestFinalClosures(t *testing.T) {
+	for _, c := range []struct{ what, text, want string }{
+		{"no cells", "looper ui; var f fn; main { f = fn { }; }", "m#0=f1"},
+		{"a named function", "looper ui; var f fn; fn named { } main { f = named; }", "m#0=f0"},
+		{"one cell", "looper ui; var f fn; main { var n int = 0 - 7; f = fn { log n; }; }", "m#0= -7, m#1=f1 m#0"},
+		{"two cells, one of them its own", "looper ui; main { var n int = 7; var f fn = null; f = fn { log n; call f; }; }", "m#0= 7, m#1= m#2, m#2=f1 m#0 m#1"},
+		{"a closure in another one's cell", "looper ui; main { var f fn = fn { }; var g fn = fn { call f; }; }", "m#0=f1, m#1= m#0, m#2=f2 m#1"},
+	} {
+		p := parsed(t, c.text)
+		got := trace.Final(p, ended(t, p, ""))
+		if !slices.Equal(got.Objects, strings.Split(c.want, ", ")) {
+			t.Errorf("%s: %q, not %q", c.what, got.Objects, c.want)
+		}
+	}
+}
+
 // P13.4: under way: what a machine is like is told as it is then.
 func TestFinalUnderWay(t *testing.T) {
 	p := parsed(t, "looper ui; var g int; var k tok; main { g = 1; post ui fn { log g; g = 2; } to k; log 7; }")
 	m := made(t, p)
 	wantFinal(t, "a new one", p, m, api.Final{Globals: []string{"0", "-"}})
 	m = behind(t, p, "run 0 * 5")
-	wantFinal(t, "behind the post", p, m, api.Final{Globals: []string{"1", "-"}, Objects: []string{"m#0= f1"}})
+	wantFinal(t, "behind the post", p, m, api.Final{Globals: []string{"1", "-"}, Objects: []string{"m#0=f1"}})
 	m = behind(t, p, "run 0 * 9")
-	wantFinal(t, "behind main", p, m, api.Final{Globals: []string{"1", "m/0"}, Objects: []string{"m#0= f1"}, Log: []string{"7"}})
+	wantFinal(t, "behind main", p, m, api.Final{Globals: []string{"1", "m/0"}, Objects: []string{"m#0=f1"}, Log: []string{"7"}})
 	m = ended(t, p, "")
-	wantFinal(t, "behind all", p, m, api.Final{Globals: []string{"2", "m/0"}, Objects: []string{"m#0= f1"}, Log: []string{"7", "1"}})
+	wantFinal(t, "behind all", p, m, api.Final{Globals: []string{"2", "m/0"}, Objects: []string{"m#0=f1"}, Log: []string{"7", "1"}})
 }
 
 // P13.4: of no machine nothing.
@@ -163,7 +181,7 @@ func TestFinalOfNumbers(t *testing.T) {
 		m := behind(t, p, fmt.Sprintf("run 0 * %d", len(p.Funcs[0].Code)+1))
 		word := fmt.Sprint(c.n)
 		words := []string{word, c.object, c.task, c.task, c.object, c.object, c.object}
-		want := api.Final{Globals: words, Objects: []string{"m#0= 0 0", "m#1= f1", "m#10= f2 " + c.object + " m#9", "m#2="}}
+		want := api.Final{Globals: words, Objects: []string{"m#0= 0 0", "m#1=f1", "m#10=f2 " + c.object + " m#9", "m#2="}}
 		for i, word := range words {
 			want.Objects[3] += " " + word
 			want.Objects = append(want.Objects, fmt.Sprintf("m#%d= %s", i+3, word))
@@ -176,7 +194,7 @@ func TestFinalOfNumbers(t *testing.T) {
 func TestFinalOfOddTypes(t *testing.T) {
 	p := parsed(t, "looper ui; class C { i int; j int; } var g int; var h int; main { g = 1; h = 2; var c C = new C; c.i = 1; var n int = 1; log n; spawn fn { n = n; }; }")
 	m := ended(t, p, "")
-	want := api.Final{Globals: []string{"1", "2"}, Objects: []string{"m#0= 1 0", "m#1= 1", "m#2= f1 m#1"}, Log: []string{"1"}}
+	want := api.Final{Globals: []string{"1", "2"}, Objects: []string{"m#0= 1 0", "m#1= 1", "m#2=f1 m#1"}, Log: []string{"1"}}
 	wantFinal(t, "its own program", p, m, want)
 	q := api.Prog{}
 	want.Globals, want.Objects[0] = []string{"-", "-"}, "m#0= - -"
@@ -199,7 +217,7 @@ main { }`)
 		all = append(all, trace.Final(p, m))
 		if want := (api.Final{
 			Globals: []string{"e0.0#0", "e1.0#0", "-"},
-			Objects: []string{"e0.0#0= 5 - - e0.0/0", "e0.0#1= f1", "e1.0#0= 6 e1.0#0 e1.0#1 -", "e1.0#1= f3"},
+			Objects: []string{"e0.0#0= 5 - - e0.0/0", "e0.0#1=f1", "e1.0#0= 6 e1.0#0 e1.0#1 -", "e1.0#1=f3"},
 			Traps:   []string{"e0.0/0:1", "e1.0:1"},
 		}); !trace.SameFinal(all[0], all[len(all)-1]) || !trace.SameFinal(all[0], want) {
 			t.Errorf("%s: %+v, want %+v", words, all[len(all)-1], want)

@@ -198,10 +198,11 @@ func final(p api.Prog, m *machine.Machine) api.Final {
 	}
 	lines := map[string]string{}
 	for id, x := range h.All() {
-		l := []string{object(int64(id)) + "="}
+		ahead := object(int64(id)) + "="
 		if x.Kind == api.ObjClosure {
-			l = append(l, fmt.Sprint("f", x.Of))
+			ahead += fmt.Sprint("f", x.Of)
 		}
+		l := []string{ahead}
 		for i, n := range x.Vals {
 			l = append(l, map[api.ObjKind]func() string{
 				api.ObjPlain:   func() string { return word(p.Classes[x.Of].Fields[i], n) },
